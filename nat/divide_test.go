@@ -9,8 +9,24 @@ import (
 
 // 1.3: DivMod, Gcd.
 
+// division is a row: a divided by b is q, and r is left.
+type division struct{ a, b, q, r api.Nat }
+
+// checkDivisions holds DivMod against some rows.
+func checkDivisions(t *testing.T, rows []division) {
+	t.Helper()
+	for _, c := range rows {
+		q, r, e := nat.DivMod(c.a, c.b)
+		if e != api.OK {
+			t.Errorf("DivMod(%v, %v): %v", c.a, c.b, e)
+		}
+		check(t, "quotient", q, c.q)
+		check(t, "what is left", r, c.r)
+	}
+}
+
 func TestDivMod(t *testing.T) {
-	for _, c := range []struct{ a, b, q, r api.Nat }{
+	checkDivisions(t, []division{
 		{num(100), num(7), num(14), num(2)},
 		{num(0, 0, 1), num(1, 1), num(full), num(1)},
 		{nil, num(3), nil, nil},
@@ -25,34 +41,20 @@ func TestDivMod(t *testing.T) {
 		{num(0, 0, 0, 1), num(0, 1), num(0, 0, 1), nil},
 		{num(7, 0, 0, 1), num(0, 0, 1), num(0, 1), num(7)},
 		{num(full, full, full, full), num(full, full), num(1, 0, 1), nil},
-	} {
-		q, r, e := nat.DivMod(c.a, c.b)
-		if e != api.OK {
-			t.Errorf("DivMod(%v, %v): %v", c.a, c.b, e)
-		}
-		check(t, "quotient", q, c.q)
-		check(t, "what is left", r, c.r)
-	}
+	})
 }
 
 // TestDivModGuesses: in these rows a limb that is guessed out of the highest
 // ones is too great, by one or by two, or would not even be a limb.
 func TestDivModGuesses(t *testing.T) {
-	for _, c := range []struct{ a, b, q, r api.Nat }{
+	checkDivisions(t, []division{
 		{num(0, full-1, 1<<31), num(full, 1<<31), num(full), num(full, 1<<31-1)},
 		{num(3, 0, 1<<31), num(1, 0, 1<<29), num(3), num(0, 0, 1<<29)},
 		{num(3, 0, 1<<15), num(1, 0, 1<<13), num(3), num(0, 0, 1<<13)},
 		{num(0, 0, 1<<15, 1<<15-1), num(1, 0, 1<<15), num(0xfffe0000), num(0x20000, full, 1<<15-1)},
 		{num(0, 0xfffe, 0, 1<<15), num(0xffff, 0, 1<<15), num(full), num(0xffff, full, 1<<15-1)},
 		{num(0, full-1, 0, 1<<31), num(0xffff, 0, 1<<31), num(0, 1), num(0, full-0x10000)},
-	} {
-		q, r, e := nat.DivMod(c.a, c.b)
-		if e != api.OK {
-			t.Errorf("DivMod(%v, %v): %v", c.a, c.b, e)
-		}
-		check(t, "quotient", q, c.q)
-		check(t, "what is left", r, c.r)
-	}
+	})
 }
 
 func TestDivModByNought(t *testing.T) {
