@@ -5,6 +5,7 @@ import (
 
 	"credence/api"
 	"credence/nat"
+	"credence/samples"
 )
 
 // 1.3: DivMod, Gcd.
@@ -58,7 +59,7 @@ func TestDivModGuesses(t *testing.T) {
 }
 
 func TestDivModByNought(t *testing.T) {
-	for _, b := range []api.Nat{nil, num(), num(0), num(0, 0, 0)} {
+	for _, b := range []api.Nat{nil, api.Nat{}, num(0), num(0, 0, 0)} {
 		for _, a := range []api.Nat{nil, num(5), num(1, 2, 3)} {
 			if q, r, e := nat.DivMod(a, b); e != api.ErrZero || len(q) != 0 || len(r) != 0 {
 				t.Errorf("DivMod(%v, %v): %v, %v, %v", a, b, q, r, e)
@@ -83,7 +84,7 @@ func divides(t *testing.T, a, b api.Nat) {
 }
 
 func TestDivModHolds(t *testing.T) {
-	for _, list := range [][]api.Nat{edges(), some(150, 9)} {
+	for _, list := range [][]api.Nat{samples.EdgeNats(), samples.Nats(150, 9)} {
 		for _, a := range list {
 			for _, b := range list {
 				if nat.Bits(b) > 0 {
@@ -126,7 +127,7 @@ func euclid(a, b api.Nat) api.Nat {
 }
 
 func TestGcdIsEuclids(t *testing.T) {
-	for _, list := range [][]api.Nat{edges(), some(60, 20)} {
+	for _, list := range [][]api.Nat{samples.EdgeNats(), samples.Nats(60, 20)} {
 		for i, a := range list {
 			for _, b := range list {
 				check(t, "Gcd", nat.Gcd(a, b), euclid(a, b))
@@ -150,7 +151,7 @@ func TestGcdOfNeighbours(t *testing.T) {
 }
 
 func TestGcdOfLongNumbers(t *testing.T) {
-	list := some(6, 400)
+	list := samples.Nats(6, 400)
 	c := list[0]
 	for _, a := range list[1:] {
 		for _, b := range list[1:] {

@@ -56,46 +56,6 @@ func check(t *testing.T, what string, got, want api.Nat) {
 // short is a number as far as a message shows it.
 func short(a api.Nat) api.Nat { return a[:min(len(a), 12)] }
 
-// edges are all numbers of up to three limbs out of those at which carries
-// and borrows begin and end; some of them have noughts ahead.
-func edges() []api.Nat {
-	limbs := []uint32{0, 1, 1<<31 - 1, 1 << 31, full}
-	list := []api.Nat{nil}
-	for _, x := range limbs {
-		list = append(list, num(x))
-		for _, y := range limbs {
-			list = append(list, num(x, y))
-			for _, z := range limbs {
-				list = append(list, num(x, y, z))
-			}
-		}
-	}
-	return list
-}
-
-// some are numbers of up to most limbs without any order, the same at each
-// run; each third one has limbs of 0 and of 2^32 - 1 in it.
-func some(count, most int) []api.Nat {
-	seed := uint64(88172645463325252)
-	next := func() uint32 {
-		seed ^= seed << 13
-		seed ^= seed >> 7
-		seed ^= seed << 17
-		return uint32(seed >> 16)
-	}
-	list := make([]api.Nat, count)
-	for i := range list {
-		list[i] = make(api.Nat, int(next())%most+1)
-		for j := range list[i] {
-			list[i][j] = next()
-			if i%3 == 0 && next()%2 == 0 {
-				list[i][j] = -(next() & 1)
-			}
-		}
-	}
-	return list
-}
-
 // The digits of a number to the base 10, and sums and products of them as on
 // paper: slow, and without anything of what is tested.
 

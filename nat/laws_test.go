@@ -6,13 +6,14 @@ import (
 
 	"credence/api"
 	"credence/nat"
+	"credence/samples"
 )
 
 // 1.7: what follows.
 
 // few are numbers of which all threes are gone through.
 func few() []api.Nat {
-	return append(some(14, 9), nil, num(0), num(1), num(full, full), num(0, 0, 1), num(1<<31, 0))
+	return append(samples.Nats(14, 9), nil, num(0), num(1), num(full, full), num(0, 0, 1), num(1<<31, 0))
 }
 
 func TestSumsAndProducts(t *testing.T) {
@@ -81,7 +82,7 @@ func TestShiftsAdd(t *testing.T) {
 }
 
 func TestTextThereAndBack(t *testing.T) {
-	for _, a := range append(some(200, 15), edges()...) {
+	for _, a := range append(samples.Nats(200, 15), samples.EdgeNats()...) {
 		check(t, "Parse of Text", read(t, nat.Text(a)), nat.Norm(a))
 	}
 	for _, s := range []string{"0", "00", "5", "0005", "000000000000000000", "00123456789012345678901234567890", "1000"} {

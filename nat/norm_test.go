@@ -6,6 +6,7 @@ import (
 
 	"credence/api"
 	"credence/nat"
+	"credence/samples"
 )
 
 // 1.1: Norm, Of, Uint, Bits.
@@ -15,7 +16,7 @@ func TestNorm(t *testing.T) {
 		{num(5, 0, 0), num(5)},
 		{num(0), nil},
 		{nil, nil},
-		{num(), nil},
+		{api.Nat{}, nil},
 		{num(0, 0, 0), nil},
 		{num(0, 7, 0), num(0, 7)},
 		{num(0, 0, 1), num(0, 0, 1)},
@@ -90,7 +91,7 @@ func TestBits(t *testing.T) {
 }
 
 func TestBitsIsLeast(t *testing.T) {
-	for _, a := range edges() {
+	for _, a := range samples.EdgeNats() {
 		n := nat.Bits(a)
 		if nat.Cmp(a, two(n)) != -1 {
 			t.Errorf("%v is not below 2^%d", a, n)

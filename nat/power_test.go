@@ -6,6 +6,7 @@ import (
 
 	"credence/api"
 	"credence/nat"
+	"credence/samples"
 )
 
 // 1.4: Pow, Shift.
@@ -152,7 +153,7 @@ func TestShiftOutOfRange(t *testing.T) {
 }
 
 func TestShiftIsTimesPowerOfTwo(t *testing.T) {
-	for _, a := range append(some(30, 6), edges()...) {
+	for _, a := range append(samples.Nats(30, 6), samples.EdgeNats()...) {
 		for n := range 100 {
 			up, e := nat.Shift(a, n)
 			if e != api.OK {

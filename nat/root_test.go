@@ -5,6 +5,7 @@ import (
 
 	"credence/api"
 	"credence/nat"
+	"credence/samples"
 )
 
 // 1.5: Root.
@@ -49,7 +50,7 @@ func TestRootHolds(t *testing.T) {
 	for u := range uint64(3000) {
 		isRoot(t, nat.Of(u))
 	}
-	for _, a := range append(some(200, 20), edges()...) {
+	for _, a := range append(samples.Nats(200, 20), samples.EdgeNats()...) {
 		isRoot(t, a)
 		square := nat.Mul(a, a)
 		check(t, "Root of a square", nat.Root(square), nat.Norm(a))

@@ -5,6 +5,7 @@ import (
 
 	"credence/api"
 	"credence/nat"
+	"credence/samples"
 )
 
 // 1.2: Cmp, Add, Sub, Mul.
@@ -97,7 +98,7 @@ func TestMul(t *testing.T) {
 
 // TestSumsOnPaper holds all four against digits that are reckoned on paper.
 func TestSumsOnPaper(t *testing.T) {
-	list := append(some(40, 7), num(0), num(1, 0), num(full, full, full, 0), num(0, 0, 0, 1))
+	list := append(samples.Nats(40, 7), num(0), num(1, 0), num(full, full, full, 0), num(0, 0, 0, 1))
 	for _, a := range list {
 		for _, b := range list {
 			x, y := slow(a), slow(b)
@@ -125,8 +126,8 @@ func TestSumsOnPaper(t *testing.T) {
 // TestSumsAtEdges: what is added can be taken away again, and nothing is ever
 // answered with noughts ahead.
 func TestSumsAtEdges(t *testing.T) {
-	for _, a := range edges() {
-		for _, b := range edges() {
+	for _, a := range samples.EdgeNats() {
+		for _, b := range samples.EdgeNats() {
 			sum := nat.Add(a, b)
 			check(t, "Add is normal", sum, nat.Norm(sum))
 			d, ok := nat.Sub(sum, b)

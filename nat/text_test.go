@@ -6,6 +6,7 @@ import (
 
 	"credence/api"
 	"credence/nat"
+	"credence/samples"
 )
 
 // 1.6: Text, Parse.
@@ -16,7 +17,7 @@ func TestText(t *testing.T) {
 		want string
 	}{
 		{nil, "0"},
-		{num(), "0"},
+		{api.Nat{}, "0"},
 		{num(0, 0), "0"},
 		{num(7, 0, 0), "7"},
 		{num(10), "10"},
@@ -97,7 +98,7 @@ func TestParseRefusesEachByte(t *testing.T) {
 
 // TestTextOnPaper holds both against digits that are reckoned on paper.
 func TestTextOnPaper(t *testing.T) {
-	for _, a := range append(some(60, 8), edges()...) {
+	for _, a := range append(samples.Nats(60, 8), samples.EdgeNats()...) {
 		want := slow(a)
 		if got := nat.Text(a); got != want {
 			t.Fatalf("Text(%v): %s, want %s", a, got, want)
