@@ -56,3 +56,15 @@ func Ints(sizes []api.Nat) []api.Int {
 	}
 	return list
 }
+
+// Rats are each of some numbers over each of some others; those over 0 stand
+// for fractions too, over 1.
+func Rats(nums []api.Int, dens []api.Nat) []api.Rat {
+	var list []api.Rat
+	for _, num := range nums {
+		for _, den := range dens {
+			list = append(list, api.Rat{Num: num, Den: den})
+		}
+	}
+	return list
+}
