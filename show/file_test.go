@@ -7,6 +7,7 @@ import (
 
 	"credence/api"
 	"credence/nat"
+	"credence/samples"
 	"credence/show"
 )
 
@@ -159,8 +160,8 @@ type spoil struct {
 // spoils are ways to make a file wrong, in the order of the text; those of one
 // place stand together.
 func spoils() [][]spoil {
-	third := []api.Term{number(ratio(1, 3))}
-	deep := append([]api.Term{whole(1)}, slices.Repeat([]api.Term{sign(api.TermNeg)}, 65)...)
+	third := []api.Term{samples.Number(ratio(1, 3))}
+	deep := append([]api.Term{samples.Whole(1)}, slices.Repeat([]api.Term{samples.Sign(api.TermNeg)}, 65)...)
 	sums := func(what string, numbers func(f *api.File) *[][]api.Term, at int) [][]spoil {
 		return [][]spoil{{
 			{what + " no expression", api.ErrSyntax, func(f *api.File) { (*numbers(f))[at] = nil }},
@@ -239,7 +240,7 @@ func TestFirstWrong(t *testing.T) {
 // TestKindAheadOfNumbers: an entry of another kind, or without given names, is
 // told ahead of its numbers.
 func TestKindAheadOfNumbers(t *testing.T) {
-	third := [][]api.Term{{number(ratio(1, 3))}}
+	third := [][]api.Term{{samples.Number(ratio(1, 3))}}
 	for _, e := range []api.Entry{{Kind: 0, Numbers: third}, {Kind: 4, Numbers: third}, {Kind: 9, Given: []string{"a"}, Numbers: third}, {Kind: api.EntryRow, Numbers: third}, {Kind: api.EntryRow, Given: []string{"a", "1"}, Numbers: third}} {
 		checkNoFile(t, api.File{Name: "n", Probs: []api.ProbDecl{{Name: "x", Entries: []api.Entry{e}}}}, api.ErrSyntax)
 	}

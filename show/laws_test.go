@@ -10,6 +10,7 @@ import (
 	"credence/frac"
 	"credence/nat"
 	"credence/parse"
+	"credence/samples"
 	"credence/show"
 )
 
@@ -21,10 +22,10 @@ func normalTerms(l []api.Term) []api.Term {
 	var out []api.Term
 	for _, x := range l {
 		if x.Kind == api.TermNumber {
-			out = append(out, number(frac.Sum(x.Number)))
+			out = append(out, samples.Number(frac.Sum(x.Number)))
 			continue
 		}
-		out = append(out, sign(x.Kind))
+		out = append(out, samples.Sign(x.Kind))
 	}
 	return out
 }
@@ -100,11 +101,11 @@ func checkRead(t *testing.T, l []api.Term) string {
 	t.Helper()
 	text, e := show.Terms(l)
 	if e != api.OK {
-		t.Fatalf("Terms(%.200s): %v", wording(l), e)
+		t.Fatalf("Terms(%.200s): %v", samples.Wording(l), e)
 	}
 	got, err := parse.Numbers(text)
 	if err != nil || len(got) != 1 || !sameTerms(got[0], normalTerms(l)) {
-		t.Fatalf("Terms(%.200s) is %.200q, read as %d sums, %v", wording(l), text, len(got), err)
+		t.Fatalf("Terms(%.200s) is %.200q, read as %d sums, %v", samples.Wording(l), text, len(got), err)
 	}
 	checkTerms(t, got[0], text)
 	return text
@@ -140,7 +141,7 @@ func checkNeeded(t *testing.T, l []api.Term, text string) {
 		} {
 			got, err := parse.Numbers(without)
 			if err == nil && len(got) == 1 && sameTerms(got[0], normalTerms(l)) {
-				t.Fatalf("%q and %q are both %s", text, without, wording(l))
+				t.Fatalf("%q and %q are both %s", text, without, samples.Wording(l))
 			}
 		}
 	}
@@ -148,18 +149,18 @@ func checkNeeded(t *testing.T, l []api.Term, text string) {
 
 // TestExpressionsThereAndBack: all short expressions, and made ones.
 func TestExpressionsThereAndBack(t *testing.T) {
-	for l := range expressions(8) {
+	for l := range samples.Expressions(8) {
 		checkNeeded(t, l, checkRead(t, l))
 	}
 	source := rand.New(rand.NewSource(84))
 	for range 1000 {
-		l := piled(source, grown(source, source.Intn(12)), source.Intn(30))
+		l := samples.Piled(source.Intn, samples.Grown(source.Intn, source.Intn(12)), source.Intn(30))
 		if _, e := show.Terms(l); e == api.OK {
 			checkNeeded(t, l, checkRead(t, l))
 		}
 	}
 	for _, a := range []api.Rat{{}, ratio(3, 6), ratio(5, 0), ratio(0, 7), {Num: api.Int{Neg: true, Mag: api.Nat{0}}}, {Num: api.Int{Mag: api.Nat{4, 0}}, Den: api.Nat{8, 0}}} {
-		checkRead(t, []api.Term{number(a), {Kind: api.TermNeg, Number: ratio(1, 3)}})
+		checkRead(t, []api.Term{samples.Number(a), {Kind: api.TermNeg, Number: ratio(1, 3)}})
 	}
 }
 
@@ -184,9 +185,9 @@ func (m maker) text() string {
 // sum makes an expression.
 func (m maker) sum() []api.Term {
 	if m.Intn(3) > 0 {
-		return grown(m.Rand, m.Intn(3))
+		return samples.Grown(m.Intn, m.Intn(3))
 	}
-	return piled(m.Rand, grown(m.Rand, m.Intn(4)), m.Intn(80))
+	return samples.Piled(m.Intn, samples.Grown(m.Intn, m.Intn(4)), m.Intn(80))
 }
 
 // variable makes a variable.

@@ -8,6 +8,7 @@ import (
 
 	"credence/api"
 	"credence/nat"
+	"credence/samples"
 	"credence/show"
 )
 
@@ -120,14 +121,14 @@ func TestSameRoom(t *testing.T) {
 }
 
 func TestHandedInIsUntouched(t *testing.T) {
-	for l := range expressions(5) {
+	for l := range samples.Expressions(5) {
 		checkUntouched(t, l, show.Terms)
 	}
 	for _, list := range []string{"", "1 +", "1 2", "1/3", "-1", "1 k7", "1" + strings.Repeat(" n", 65)} {
-		checkUntouched(t, terms(t, list), show.Terms)
+		checkUntouched(t, samples.Terms(list), show.Terms)
 	}
 	odd := api.Rat{Num: api.Int{Neg: true, Mag: api.Nat{0, 0}}, Den: api.Nat{6, 0}}
-	checkUntouched(t, []api.Term{number(odd), number(ratio(6, 4)), sign(api.TermTimes)}, show.Terms)
+	checkUntouched(t, []api.Term{samples.Number(odd), samples.Number(ratio(6, 4)), samples.Sign(api.TermTimes)}, show.Terms)
 	m := maker{rand.New(rand.NewSource(87))}
 	for range 200 {
 		checkUntouched(t, m.file(), show.File)
@@ -147,7 +148,7 @@ func TestLongFiles(t *testing.T) {
 	for range count {
 		f.Properties = append(f.Properties, "p")
 		f.Vars = append(f.Vars, api.VarDecl{Name: "x", Count: nat.Of(1), Values: []string{"v"}})
-		f.Probs = append(f.Probs, api.ProbDecl{Name: "x", Parents: []string{"y"}, Entries: []api.Entry{{Kind: api.EntryRow, Given: []string{"v"}, Numbers: [][]api.Term{{whole(1)}}}}})
+		f.Probs = append(f.Probs, api.ProbDecl{Name: "x", Parents: []string{"y"}, Entries: []api.Entry{{Kind: api.EntryRow, Given: []string{"v"}, Numbers: [][]api.Term{{samples.Whole(1)}}}}})
 	}
 	checkFile(t, f, "network n {\n"+strings.Repeat("  property \"p\";\n", count)+"}\n"+
 		strings.Repeat("variable x {\n  type discrete [1] { v };\n}\n", count)+
