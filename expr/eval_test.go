@@ -90,26 +90,26 @@ func TestSignsWithNumbers(t *testing.T) {
 }
 
 // valueOf is the value of a tree, if it has one, reckoned with pairs.
-func valueOf(x *samples.Tree) (pair, bool) {
+func valueOf(x *samples.Tree) (samples.Pair, bool) {
 	if x.Kind == api.TermNumber {
-		return pairOf(x.Number), true
+		return samples.PairOf(x.Number), true
 	}
 	right, ok := valueOf(x.Right)
 	if !ok || x.Kind == api.TermNeg {
-		return right.neg(), ok
+		return right.Neg(), ok
 	}
 	left, ok := valueOf(x.Left)
 	switch {
-	case !ok || x.Kind == api.TermOver && right.num == 0:
-		return pair{}, false
+	case !ok || x.Kind == api.TermOver && right.Num == 0:
+		return samples.Pair{}, false
 	case x.Kind == api.TermPlus:
-		return left.plus(right), true
+		return left.Plus(right), true
 	case x.Kind == api.TermMinus:
-		return left.minus(right), true
+		return left.Minus(right), true
 	case x.Kind == api.TermTimes:
-		return left.times(right), true
+		return left.Times(right), true
 	}
-	return left.over(right), true
+	return left.Over(right), true
 }
 
 // TestShortExpressions: all short expressions, with all choices of some
@@ -125,7 +125,7 @@ func TestShortExpressions(t *testing.T) {
 				checkNoValue(t, l, api.ErrZero)
 				continue
 			}
-			checkValue(t, l, want.rat())
+			checkValue(t, l, want.Rat())
 		}
 	}
 	if zero == 0 || zero > count/2 {

@@ -21,14 +21,8 @@ func read(text string) api.Rat {
 	return a
 }
 
-// same is whether two fractions are the same, limb by limb: so what is held
-// against a normal one is normal too.
-func same(a, b api.Rat) bool {
-	return a.Num.Neg == b.Num.Neg && slices.Equal(a.Num.Mag, b.Num.Mag) && slices.Equal(a.Den, b.Den)
-}
-
 // isZero is whether a fraction is Go's zero value, or lists without elements.
-func isZero(a api.Rat) bool { return same(a, api.Rat{}) }
+func isZero(a api.Rat) bool { return samples.SameLimbs(a, api.Rat{}) }
 
 // parts are the four numbers of a line.
 func parts(f api.Line) []api.Rat { return []api.Rat{f.A, f.B, f.C, f.D} }
@@ -58,7 +52,7 @@ func checkNoDeep(t *testing.T, l []api.Term) {
 // be.
 func checkValue(t *testing.T, l []api.Term, want api.Rat) {
 	t.Helper()
-	if got, e := expr.Eval(l); e != api.OK || !same(got, want) {
+	if got, e := expr.Eval(l); e != api.OK || !samples.SameLimbs(got, want) {
 		t.Fatalf("Eval(%.200s): %.200s, %v, want %.200s", samples.Wording(l), frac.Text(got), e, frac.Text(want))
 	}
 }
@@ -80,7 +74,7 @@ func checkLine(t *testing.T, l []api.Term, at int, want string) {
 		t.Fatalf("Line(%.200s, %d): %.200s, %v, want %.200s", samples.Wording(l), at, lineText(got), e, want)
 	}
 	for _, a := range parts(got) {
-		if !same(a, frac.Sum(a)) {
+		if !samples.SameLimbs(a, frac.Sum(a)) {
 			t.Fatalf("Line(%.200s, %d): %v is not normal", samples.Wording(l), at, a)
 		}
 	}
@@ -134,52 +128,6 @@ func filled(l []api.Term, numbers []api.Rat) iter.Seq[[]api.Term] {
 		fill(0)
 	}
 }
-
-// pair is a fraction of two small numbers, in lowest terms, the lower one above
-// 0: another way to reckon than the program's.
-type pair struct{ num, den int }
-
-// newPair is a pair in lowest terms; the lower number is not 0.
-func newPair(num, den int) pair {
-	x, y := num, den
-	for y != 0 {
-		x, y = y, x%y
-	}
-	if (x < 0) != (den < 0) {
-		x = -x
-	}
-	return pair{num / x, den / x}
-}
-
-// pairOf is a fraction of numbers of one limb at most as a pair.
-func pairOf(a api.Rat) pair {
-	num, den := 0, 1
-	if len(a.Num.Mag) > 0 {
-		num = int(a.Num.Mag[0])
-	}
-	if a.Num.Neg {
-		num = -num
-	}
-	if len(a.Den) > 0 && a.Den[0] != 0 {
-		den = int(a.Den[0])
-	}
-	return newPair(num, den)
-}
-
-// rat is a pair as a fraction, which is normal.
-func (a pair) rat() api.Rat {
-	if a.num == 0 {
-		return api.Rat{Den: api.Nat{1}}
-	}
-	return samples.Ratio(a.num, a.den)
-}
-
-// The sums and products of pairs; over is of one that is not 0.
-func (a pair) neg() pair         { return pair{-a.num, a.den} }
-func (a pair) plus(b pair) pair  { return newPair(a.num*b.den+b.num*a.den, a.den*b.den) }
-func (a pair) minus(b pair) pair { return a.plus(b.neg()) }
-func (a pair) times(b pair) pair { return newPair(a.num*b.num, a.den*b.den) }
-func (a pair) over(b pair) pair  { return newPair(a.num*b.den, a.den*b.num) }
 
 // numbers are small ones to fill lists with: 0, 1, 2, and -1/2, not normal.
 func numbers() []api.Rat {

@@ -114,29 +114,29 @@ func TestOrderOfErrorsOfLine(t *testing.T) {
 }
 
 // four are the A, B, C, D of a part in which the place is.
-type four struct{ a, b, c, d pair }
+type four struct{ a, b, c, d samples.Pair }
 
 // byTable is the row of the chapter's table: of the part that is f, k being the
 // other one. ok is whether no divisor is 0.
-func byTable(kind int8, f four, k pair, kIsLeft bool) (four, bool) {
+func byTable(kind int8, f four, k samples.Pair, kIsLeft bool) (four, bool) {
 	a, b, c, d := f.a, f.b, f.c, f.d
 	switch {
 	case kind == api.TermNeg:
-		return four{a.neg(), b.neg(), c, d}, true
+		return four{a.Neg(), b.Neg(), c, d}, true
 	case kind == api.TermPlus:
-		return four{a.plus(k.times(c)), b.plus(k.times(d)), c, d}, true
+		return four{a.Plus(k.Times(c)), b.Plus(k.Times(d)), c, d}, true
 	case kind == api.TermMinus && !kIsLeft:
-		return four{a.minus(k.times(c)), b.minus(k.times(d)), c, d}, true
+		return four{a.Minus(k.Times(c)), b.Minus(k.Times(d)), c, d}, true
 	case kind == api.TermMinus:
-		return four{k.times(c).minus(a), k.times(d).minus(b), c, d}, true
+		return four{k.Times(c).Minus(a), k.Times(d).Minus(b), c, d}, true
 	case kind == api.TermTimes:
-		return four{k.times(a), k.times(b), c, d}, true
+		return four{k.Times(a), k.Times(b), c, d}, true
 	case kIsLeft:
-		return four{k.times(c), k.times(d), a, b}, a.num != 0 || b.num != 0
-	case k.num == 0:
+		return four{k.Times(c), k.Times(d), a, b}, a.Num != 0 || b.Num != 0
+	case k.Num == 0:
 		return four{}, false
 	}
-	return four{a.over(k), b.over(k), c, d}, true
+	return four{a.Over(k), b.Over(k), c, d}, true
 }
 
 // has is whether the place is in a tree.
@@ -147,7 +147,7 @@ func has(x *samples.Tree, at int) bool {
 // fourOf is what a tree with the place in it is; ok, if no divisor is 0.
 func fourOf(x *samples.Tree, at int) (four, bool) {
 	if x.At == at {
-		return four{a: pair{1, 1}, b: pair{0, 1}, c: pair{0, 1}, d: pair{1, 1}}, true
+		return four{a: samples.NewPair(1, 1), b: samples.NewPair(0, 1), c: samples.NewPair(0, 1), d: samples.NewPair(1, 1)}, true
 	}
 	inner, other := x.Right, x.Left
 	if has(x.Left, at) {
@@ -157,7 +157,7 @@ func fourOf(x *samples.Tree, at int) (four, bool) {
 	if !ok {
 		return four{}, false
 	}
-	var k pair
+	var k samples.Pair
 	if other != nil {
 		if k, ok = valueOf(other); !ok {
 			return four{}, false
@@ -169,12 +169,12 @@ func fourOf(x *samples.Tree, at int) (four, bool) {
 // text is the four divided by C, or, if that is 0, by D.
 func (f four) text() string {
 	by := f.c
-	if by.num == 0 {
+	if by.Num == 0 {
 		by = f.d
 	}
 	var words []string
-	for _, x := range []pair{f.a, f.b, f.c, f.d} {
-		words = append(words, frac.Text(x.over(by).rat()))
+	for _, x := range []samples.Pair{f.a, f.b, f.c, f.d} {
+		words = append(words, frac.Text(x.Over(by).Rat()))
 	}
 	return strings.Join(words, " ")
 }
@@ -239,7 +239,7 @@ func checkFollows(t *testing.T, l []api.Term, at int) {
 			continue
 		}
 		met++
-		if got, e := apply(f, x); code != api.OK || e != api.OK || !same(got, want) {
+		if got, e := apply(f, x); code != api.OK || e != api.OK || !samples.SameLimbs(got, want) {
 			t.Fatalf("Line(%.200s, %d): %s, %v: at %s %.200s, %v, want %.200s", samples.Wording(l), at, lineText(f), code, frac.Text(x), frac.Text(got), e, frac.Text(want))
 		}
 	}

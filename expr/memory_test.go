@@ -14,15 +14,6 @@ import (
 // marks are limbs that no number of these tests has.
 var marks = samples.Marks[uint32]{Spare: 0xdeadbeef, Ink: 0x55aa55aa}
 
-// limbs are the lists of which some fractions are made.
-func limbs(numbers ...api.Rat) [][]uint32 {
-	var out [][]uint32
-	for _, a := range numbers {
-		out = append(out, a.Num.Mag, a.Den)
-	}
-	return out
-}
-
 // laid is a list of terms with its numbers laid over other limbs, the sides
 // being its own.
 func laid(l []api.Term, in [][]uint32) []api.Term {
@@ -42,17 +33,17 @@ func checkAlone(t *testing.T, l []api.Term) {
 	}
 	eval := func(lists [][]uint32) [][]uint32 {
 		a, _ := expr.Eval(laid(l, lists))
-		return limbs(a)
+		return samples.Limbs(a)
 	}
-	if wrong := samples.Alone(eval, limbs(in...), marks); wrong != "" {
+	if wrong := samples.Alone(eval, samples.Limbs(in...), marks); wrong != "" {
 		t.Fatalf("Eval(%s): %s", samples.Wording(l), wrong)
 	}
 	for at := range l {
 		line := func(lists [][]uint32) [][]uint32 {
 			f, _ := expr.Line(laid(l, lists), at)
-			return limbs(parts(f)...)
+			return samples.Limbs(parts(f)...)
 		}
-		if wrong := samples.Alone(line, limbs(in...), marks); wrong != "" {
+		if wrong := samples.Alone(line, samples.Limbs(in...), marks); wrong != "" {
 			t.Fatalf("Line(%s, %d): %s", samples.Wording(l), at, wrong)
 		}
 	}
@@ -83,7 +74,7 @@ func TestMemory(t *testing.T) {
 
 // sameTerms is whether two lists of terms are the same, limb by limb.
 func sameTerms(a, b []api.Term) bool {
-	return slices.EqualFunc(a, b, func(x, y api.Term) bool { return x.Kind == y.Kind && same(x.Number, y.Number) })
+	return slices.EqualFunc(a, b, func(x, y api.Term) bool { return x.Kind == y.Kind && samples.SameLimbs(x.Number, y.Number) })
 }
 
 // TestMemoryOfTheList: the list itself is not changed, nor its spare room.
@@ -116,7 +107,7 @@ func TestMemoryOfOneNumberTwice(t *testing.T) {
 			}
 			value, _ := expr.Eval(l)
 			f, _ := expr.Line(l, places(l)[0])
-			return limbs(append(parts(f), value)...)
+			return samples.Limbs(append(parts(f), value)...)
 		}
 		if wrong := samples.Alone(call, [][]uint32{{6, 0, 7}}, marks); wrong != "" {
 			t.Fatalf("%s: %s", samples.Wording(l), wrong)
