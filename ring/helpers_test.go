@@ -120,22 +120,3 @@ func slopes(ats, bys []api.Rat) []ring.Slope {
 	}
 	return list
 }
-
-// strokes is a ring that tells all that is done, in its order and brackets.
-type strokes struct{}
-
-func (strokes) Zero() string           { return "0" }
-func (strokes) One() string            { return "1" }
-func (strokes) Add(a, b string) string { return "(" + a + "+" + b + ")" }
-func (strokes) Mul(a, b string) string { return "(" + a + "*" + b + ")" }
-func (strokes) Same(a, b string) bool  { return a == b }
-
-// clock is a ring of the hours from 0 to 11, which needs nothing of its object:
-// a nil one is a ring too.
-type clock struct{ hours int }
-
-func (*clock) Zero() int          { return 0 }
-func (*clock) One() int           { return 1 }
-func (*clock) Add(a, b int) int   { return (a + b) % 12 }
-func (*clock) Mul(a, b int) int   { return a * b % 12 }
-func (*clock) Same(a, b int) bool { return a%12 == b%12 }

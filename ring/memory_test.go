@@ -111,8 +111,8 @@ func TestMemoryOfTheList(t *testing.T) {
 	want := []string{"a", "b", "c", "spare", "room"}
 	room := slices.Clone(want)
 	for range 2 {
-		ring.Sum[string](strokes{}, room[:3]...)
-		ring.Product[string](strokes{}, room[:3]...)
+		ring.Sum[string](samples.Strokes{}, room[:3]...)
+		ring.Product[string](samples.Strokes{}, room[:3]...)
 		ring.Sum[string](nil, room[:3]...)
 		ring.Product[string](nil, room[:3]...)
 		if !slices.Equal(room, want) {

@@ -27,7 +27,7 @@ func power[T any](t *testing.T, r ring.Ring[T], a T, n int) T {
 func TestOrderOfPowers(t *testing.T) {
 	for _, n := range []int{0, 1, 2, 3, 4, 7, 8, 1023, api.MaxPower} {
 		want := strings.Repeat("(", n) + "1" + strings.Repeat("*a)", n)
-		if got := power[string](t, strokes{}, "a", n); got != want {
+		if got := power[string](t, samples.Strokes{}, "a", n); got != want {
 			t.Errorf("n = %d: %.80s", n, got)
 		}
 	}
@@ -59,7 +59,7 @@ func TestPowersOutside(t *testing.T) {
 	checkOutside(t, ring.Bools{}, true, func(a bool) bool { return !a })
 	checkOutside(t, ring.Ints{}, 1, func(a int) bool { return a == 0 })
 	checkOutside(t, ring.Floats{}, 1, func(a float64) bool { return alike(a, 0) })
-	checkOutside(t, strokes{}, "a", func(a string) bool { return a == "" })
+	checkOutside(t, samples.Strokes{}, "a", func(a string) bool { return a == "" })
 }
 
 // TestPowersOfRats: those of both sides of the stroke.

@@ -22,7 +22,7 @@ func TestOrderOfSums(t *testing.T) {
 		"a a a": {"(((0+a)+a)+a)", "(((1*a)*a)*a)"}, "c a b d": {"((((0+c)+a)+b)+d)", "((((1*c)*a)*b)*d)"}, "0 1": {"((0+0)+1)", "((1*0)*1)"},
 	} {
 		l := strings.Fields(list)
-		if s, p := ring.Sum[string](strokes{}, l...), ring.Product[string](strokes{}, l...); s != want[0] || p != want[1] {
+		if s, p := ring.Sum[string](samples.Strokes{}, l...), ring.Product[string](samples.Strokes{}, l...); s != want[0] || p != want[1] {
 			t.Errorf("%q: %s, %s, want %s, %s", list, s, p, want[0], want[1])
 		}
 	}
@@ -68,7 +68,7 @@ func TestNoRing(t *testing.T) {
 	checkNoRing(t, "a")
 	checkNoRing(t, true)
 	checkNoRing(t, 1.5)
-	checkNoRing(t, &clock{})
+	checkNoRing(t, &samples.Clock{})
 	checkNoRing(t, [2]string{"a", "b"})
 	var rats ring.Ring[api.Rat]
 	if !samples.SameLimbs(ring.Sum(rats, read("1/2")), api.Rat{}) || !samples.SameLimbs(ring.Product(rats, read("1/2")), api.Rat{}) {
@@ -83,7 +83,7 @@ func TestNoRing(t *testing.T) {
 // TestRingOfNoObject: a ring is one by its methods, also where these belong to
 // a nil object.
 func TestRingOfNoObject(t *testing.T) {
-	for _, r := range []*clock{nil, {hours: 12}} {
+	for _, r := range []*samples.Clock{nil, {Hours: 12}} {
 		p, e := ring.Power[int](r, 5, 2)
 		if s, q := ring.Sum[int](r, 7, 8, 9), ring.Product[int](r, 5, 7, 11); s != 0 || q != 1 || p != 1 || e != api.OK {
 			t.Errorf("by the clock: %d, %d, %d, %v", s, q, p, e)
