@@ -1,7 +1,6 @@
 package factor_test
 
 import (
-	"iter"
 	"math/rand"
 	"slices"
 	"strconv"
@@ -11,24 +10,17 @@ import (
 	"credence/api"
 	"credence/factor"
 	"credence/ring"
+	"credence/samples"
 )
 
 // numbers is the ring of most of these tests.
 var numbers ring.Ring[int] = ring.Ints{}
 
-// list are numbers as the chapter's examples write them. A word that is none
-// is a slip of the test, which panics.
-func list(text string) []int {
-	var out []int
-	for word := range strings.FieldsSeq(text) {
-		n, err := strconv.Atoi(word)
-		if err != nil {
-			panic(word + " is no number")
-		}
-		out = append(out, n)
-	}
-	return out
-}
+// list and lists are short names for what samples makes.
+var (
+	list  = samples.List
+	lists = samples.ListsOf[int]
+)
 
 // words is a table of texts as the chapter's examples write it: Scope / Sizes /
 // Cells.
@@ -222,24 +214,5 @@ func wrong() map[string]api.Errno {
 		"0 / / 1": api.ErrShape, " / 1 / 1": api.ErrShape, "-1 / 2 / 1 2": api.ErrShape, "0 0 / 1 1 / 1": api.ErrShape, "1 0 / 2 2 / 1 2 3 4": api.ErrShape,
 		"0 / 0 /": api.ErrShape, "0 / -1 /": api.ErrShape, "0 / 2 / 1": api.ErrShape, "0 / 2 / 1 2 3": api.ErrShape, " / /": api.ErrShape, " / / 1 2": api.ErrShape,
 		"0 / 2147483648 /": api.ErrMany, "0 1 / 65536 65536 / 1": api.ErrMany, "0 1 / 4294967296 4294967296 /": api.ErrMany,
-	}
-}
-
-// lists goes over all lists of up to most numbers, out of some.
-func lists(some []int, most int) iter.Seq[[]int] {
-	return func(yield func([]int) bool) {
-		level := [][]int{nil}
-		for range most + 1 {
-			var next [][]int
-			for _, l := range level {
-				if !yield(l) {
-					return
-				}
-				for _, n := range some {
-					next = append(next, append(slices.Clip(l), n))
-				}
-			}
-			level = next
-		}
 	}
 }

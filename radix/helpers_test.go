@@ -4,13 +4,12 @@ import (
 	"iter"
 	"math"
 	"slices"
-	"strconv"
-	"strings"
 	"testing"
 
 	"credence/api"
 	"credence/nat"
 	"credence/radix"
+	"credence/samples"
 )
 
 // wide, half and short are numbers in types of another name.
@@ -20,19 +19,11 @@ type (
 	short uint16
 )
 
-// list are numbers as the chapter's examples write them. A word that is none
-// is a slip of the test, which panics.
-func list(text string) []int {
-	var out []int
-	for word := range strings.FieldsSeq(text) {
-		n, err := strconv.Atoi(word)
-		if err != nil {
-			panic(word + " is no number")
-		}
-		out = append(out, n)
-	}
-	return out
-}
+// list and lists are short names for what samples makes.
+var (
+	list  = samples.List
+	lists = samples.ListsOf[int]
+)
 
 // as are numbers as those of another type, ok if each is one of these.
 func as[T radix.Whole](numbers []int) ([]T, bool) {
@@ -172,25 +163,6 @@ func inOrder(sizes []int) [][]int {
 		}
 	}
 	return out
-}
-
-// lists goes over all lists of up to most numbers, out of some.
-func lists(some []int, most int) iter.Seq[[]int] {
-	return func(yield func([]int) bool) {
-		level := [][]int{nil}
-		for range most + 1 {
-			var next [][]int
-			for _, l := range level {
-				if !yield(l) {
-					return
-				}
-				for _, n := range some {
-					next = append(next, append(slices.Clip(l), n))
-				}
-			}
-			level = next
-		}
-	}
 }
 
 // small are bases of which few lists have many digits.

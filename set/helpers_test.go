@@ -2,7 +2,6 @@ package set_test
 
 import (
 	"cmp"
-	"iter"
 	"math"
 	"slices"
 	"strings"
@@ -103,25 +102,6 @@ func among[T cmp.Ordered](list, other []T, in bool) []T {
 		}
 	}
 	return out
-}
-
-// lists goes over all lists of up to most things, out of some.
-func lists[T any](some []T, most int) iter.Seq[[]T] {
-	return func(yield func([]T) bool) {
-		level := [][]T{nil}
-		for range most + 1 {
-			var next [][]T
-			for _, l := range level {
-				if !yield(l) {
-					return
-				}
-				for _, x := range some {
-					next = append(next, append(slices.Clip(l), x))
-				}
-			}
-			level = next
-		}
-	}
 }
 
 // parts are all choices out of some things, none of them and all among them.

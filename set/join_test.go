@@ -6,6 +6,7 @@ import (
 	"slices"
 	"testing"
 
+	"credence/samples"
 	"credence/set"
 )
 
@@ -88,8 +89,8 @@ func TestSmallBoths(t *testing.T) {
 			checkBoth(t, a, b)
 		}
 	}
-	for a := range lists(floats(), 2) {
-		for b := range lists(floats(), 2) {
+	for a := range samples.ListsOf(floats(), 2) {
+		for b := range samples.ListsOf(floats(), 2) {
 			checkBoth(t, a, b)
 		}
 	}

@@ -4,6 +4,7 @@ import (
 	"cmp"
 	"testing"
 
+	"credence/samples"
 	"credence/set"
 )
 
@@ -69,7 +70,7 @@ func TestLawsOfFloats(t *testing.T) {
 
 // TestThereAndBack: a set is the set of its list, and of any row of it.
 func TestThereAndBack(t *testing.T) {
-	for list := range lists(words("d a c"), 5) {
+	for list := range samples.ListsOf(words("d a c"), 5) {
 		s := set.Of(list...)
 		checkSame(t, "Of its list", s, set.Of(s.List()...))
 		one := set.Of[string]()

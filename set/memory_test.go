@@ -32,14 +32,14 @@ func checkAlone[T cmp.Ordered](t *testing.T, a, b []T, x T, marks samples.Marks[
 // TestMemory: lists that are handed in are not changed, lists that are told
 // share nothing.
 func TestMemory(t *testing.T) {
-	for a := range lists([]int{4, 1, 9}, 3) {
-		for b := range lists([]int{4, 9, 6}, 2) {
+	for a := range samples.ListsOf([]int{4, 1, 9}, 3) {
+		for b := range samples.ListsOf([]int{4, 9, 6}, 2) {
 			for _, x := range []int{0, 4, 5, 10} {
 				checkAlone(t, a, b, x, samples.Marks[int]{Spare: 77, Ink: -77})
 			}
 		}
 	}
-	for a := range lists(words("b a"), 3) {
+	for a := range samples.ListsOf(words("b a"), 3) {
 		checkAlone(t, a, words("c a b"), "aa", samples.Marks[string]{Spare: "spare", Ink: "ink"})
 	}
 }

@@ -8,6 +8,7 @@ import (
 	"strconv"
 	"testing"
 
+	"credence/samples"
 	"credence/set"
 )
 
@@ -54,17 +55,17 @@ func checkOf[T cmp.Ordered](t *testing.T, list []T, others ...T) {
 
 // TestSmallOfs: all short lists out of few things.
 func TestSmallOfs(t *testing.T) {
-	for list := range lists([]int{-2, 0, 1, 5}, 6) {
+	for list := range samples.ListsOf([]int{-2, 0, 1, 5}, 6) {
 		checkOf(t, list, math.MinInt, -3, -2, -1, 0, 1, 2, 4, 5, 6, math.MaxInt)
 	}
-	for list := range lists(words("a b ab"), 5) {
+	for list := range samples.ListsOf(words("a b ab"), 5) {
 		checkOf(t, list, "", "a", "aa", "ab", "abc", "b", "c")
 	}
 }
 
 // TestFloats: things that are the same without being alike; the first stays.
 func TestFloats(t *testing.T) {
-	for list := range lists(floats(), 4) {
+	for list := range samples.ListsOf(floats(), 4) {
 		checkOf(t, list, floats()...)
 	}
 }

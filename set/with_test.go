@@ -6,6 +6,7 @@ import (
 	"slices"
 	"testing"
 
+	"credence/samples"
 	"credence/set"
 )
 
@@ -55,12 +56,12 @@ func checkWith[T cmp.Ordered](t *testing.T, list []T, x T) {
 }
 
 func TestSmallWiths(t *testing.T) {
-	for list := range lists([]int{-2, 0, 3}, 4) {
+	for list := range samples.ListsOf([]int{-2, 0, 3}, 4) {
 		for x := -3; x <= 4; x++ {
 			checkWith(t, list, x)
 		}
 	}
-	for list := range lists(floats(), 3) {
+	for list := range samples.ListsOf(floats(), 3) {
 		for _, x := range floats() {
 			checkWith(t, list, x)
 		}

@@ -1,0 +1,41 @@
+package samples
+
+import (
+	"iter"
+	"slices"
+	"strconv"
+	"strings"
+)
+
+// List are numbers as the chapters' examples write them. A word that is none is
+// a slip of the test, which panics.
+func List(text string) []int {
+	var out []int
+	for word := range strings.FieldsSeq(text) {
+		n, err := strconv.Atoi(word)
+		if err != nil {
+			panic(word + " is no number")
+		}
+		out = append(out, n)
+	}
+	return out
+}
+
+// ListsOf goes over all lists of up to most things, out of some.
+func ListsOf[T any](some []T, most int) iter.Seq[[]T] {
+	return func(yield func([]T) bool) {
+		level := [][]T{nil}
+		for range most + 1 {
+			var next [][]T
+			for _, list := range level {
+				if !yield(list) {
+					return
+				}
+				for _, x := range some {
+					next = append(next, append(slices.Clip(list), x))
+				}
+			}
+			level = next
+		}
+	}
+}
