@@ -1,10 +1,7 @@
 package dag_test
 
 import (
-	"iter"
-	"math/rand"
 	"slices"
-	"strings"
 	"testing"
 
 	"credence/api"
@@ -12,24 +9,18 @@ import (
 	"credence/samples"
 )
 
-// list is a short name for what samples makes.
-var list = samples.List
-
-// hung are parents as a text tells them: those of each point in turn, with bars
-// in between.
-func hung(text string) [][]int {
-	var parents [][]int
-	for part := range strings.SplitSeq(text, "|") {
-		parents = append(parents, list(part))
-	}
-	return parents
-}
+// Short names for what samples makes.
+var (
+	list    = samples.List
+	hung    = samples.Hung
+	small   = samples.SmallParents
+	drawn   = samples.DrawnParents
+	numbers = samples.Numbers
+	alike   = samples.SameLists
+)
 
 // p are the chapter's points.
 func p() [][]int { return hung("| 0 | 0 | 2 1") }
-
-// alike is whether two lists of lists have the same numbers.
-func alike(a, b [][]int) bool { return slices.EqualFunc(a, b, slices.Equal) }
 
 // The judges: what should be told, by the words of the chapter and nothing
 // better. They take their time, so that few points are judged.
@@ -187,61 +178,6 @@ func checkReached(t *testing.T, parents [][]int, points []int) {
 	if l, e := dag.Below(parents, points...); !slices.Equal(l, below) || e != code {
 		t.Fatalf("Below(%v; %v): %v, %v, want %v, %v", parents, points, l, e, below, code)
 	}
-}
-
-// small goes over all ways in which up to most points can hang on one another;
-// each point's parents rise or fall, by turns.
-func small(most int) iter.Seq[[][]int] {
-	return func(yield func([][]int) bool) {
-		for count := range most + 1 {
-			for bits := range 1 << (count * count) {
-				if !yield(unfolded(count, bits)) {
-					return
-				}
-			}
-		}
-	}
-}
-
-// unfolded are the parents that bits tell, one for each point and parent.
-func unfolded(count, bits int) [][]int {
-	parents := make([][]int, count)
-	for point := range parents {
-		for parent := range count {
-			if bits>>(point*count+parent)&1 == 1 {
-				parents[point] = append(parents[point], parent)
-			}
-		}
-		if (point+bits)%2 == 1 {
-			slices.Reverse(parents[point])
-		}
-	}
-	return parents
-}
-
-// drawn are parents without any order, the same at each run: each point has
-// about so many. Where nothing may lead back, points hang on such as stand ahead
-// of them in some order that is not told.
-func drawn(source *rand.Rand, count, many int, back bool) [][]int {
-	parents := make([][]int, count)
-	names := source.Perm(count)
-	for i, point := range names {
-		for j, parent := range names {
-			if (back || j < i) && source.Intn(count) < many {
-				parents[point] = append(parents[point], parent)
-			}
-		}
-	}
-	return parents
-}
-
-// numbers are the numbers from 0 on, so many.
-func numbers(count int) []int {
-	out := make([]int, count)
-	for i := range out {
-		out[i] = i
-	}
-	return out
 }
 
 // chain are points each of which hangs on the next one, but for the last.

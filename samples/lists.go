@@ -21,6 +21,18 @@ func List(text string) []int {
 	return out
 }
 
+// Numbers are the numbers from 0 on, so many.
+func Numbers(count int) []int {
+	out := make([]int, count)
+	for i := range out {
+		out[i] = i
+	}
+	return out
+}
+
+// SameLists is whether two lists of lists have the same numbers.
+func SameLists(a, b [][]int) bool { return slices.EqualFunc(a, b, slices.Equal) }
+
 // ListsOf goes over all lists of up to most things, out of some.
 func ListsOf[T any](some []T, most int) iter.Seq[[]T] {
 	return func(yield func([]T) bool) {

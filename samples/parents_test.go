@@ -1,0 +1,60 @@
+package samples_test
+
+import (
+	"math/rand"
+	"slices"
+	"testing"
+
+	"credence/samples"
+)
+
+// TestHung: a list for each point, whatever blanks there are.
+func TestHung(t *testing.T) {
+	for text, want := range map[string][][]int{
+		"": {nil}, "|": {nil, nil}, "| 0 |2 1| ": {nil, {0}, {2, 1}, nil}, "1|0": {{1}, {0}},
+	} {
+		if got := samples.Hung(text); !samples.SameLists(got, want) {
+			t.Errorf("Hung(%q): %v", text, got)
+		}
+	}
+}
+
+// TestSmallParents: each way once, of all sizes; it may be stopped.
+func TestSmallParents(t *testing.T) {
+	var got [][][]int
+	for parents := range samples.SmallParents(3) {
+		for _, list := range parents {
+			slices.Sort(list)
+		}
+		if slices.ContainsFunc(got, func(other [][]int) bool { return samples.SameLists(other, parents) }) {
+			t.Fatalf("%v came twice", parents)
+		}
+		got = append(got, parents)
+	}
+	if len(got) != 1+2+16+512 {
+		t.Errorf("%d ways", len(got))
+	}
+	for range samples.SmallParents(30) {
+		break
+	}
+}
+
+// TestDrawnParents: where nothing may lead back, nothing does: the points can be
+// taken out one by one.
+func TestDrawnParents(t *testing.T) {
+	source := rand.New(rand.NewSource(1))
+	for count := range 40 {
+		var out []int
+		parents := samples.DrawnParents(source, count, 3, false)
+		for range count {
+			for point, list := range parents {
+				if !slices.Contains(out, point) && !slices.ContainsFunc(list, func(p int) bool { return !slices.Contains(out, p) }) {
+					out = append(out, point)
+				}
+			}
+		}
+		if len(parents) != count || len(out) != count {
+			t.Fatalf("%d points, %v: %v are taken out", count, parents, out)
+		}
+	}
+}
