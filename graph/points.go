@@ -10,8 +10,8 @@ import (
 // wordBits is how many points a word of a set has bits for.
 const wordBits = 64
 
-// pointSet is a set of points, a bit for each: where a point is taken out, sets
-// are held against each other so often that lists would be slow.
+// pointSet is a set of points, a bit for each: where a point is taken out, many
+// sets are held against each other, which so goes by words, not by points.
 type pointSet [(api.MaxVars + wordBits - 1) / wordBits]uint64
 
 // has is whether a point is in.
