@@ -15,6 +15,7 @@ var (
 	hung    = samples.Hung
 	small   = samples.SmallParents
 	drawn   = samples.DrawnParents
+	chain   = samples.RowOfParents
 	numbers = samples.Numbers
 	alike   = samples.SameLists
 )
@@ -178,15 +179,6 @@ func checkReached(t *testing.T, parents [][]int, points []int) {
 	if l, e := dag.Below(parents, points...); !slices.Equal(l, below) || e != code {
 		t.Fatalf("Below(%v; %v): %v, %v, want %v, %v", parents, points, l, e, below, code)
 	}
-}
-
-// chain are points each of which hangs on the next one, but for the last.
-func chain(count int) [][]int {
-	parents := make([][]int, count)
-	for point := range count - 1 {
-		parents[point] = []int{point + 1}
-	}
-	return parents
 }
 
 // ring is a chain whose last point hangs on the first.

@@ -132,10 +132,7 @@ func TestLongReached(t *testing.T) {
 	}
 	// All that come ahead: there are 2^498 ways from the first to the last.
 	const few = 500
-	parents := make([][]int, few)
-	for point := range parents {
-		parents[point] = numbers(point)
-	}
+	parents := samples.FullParents(few)
 	if got, e := dag.Above(parents, few-1); !slices.Equal(got, numbers(few)) || e != api.OK {
 		t.Errorf("above, all on all ahead: %d points, %v", len(got), e)
 	}

@@ -134,15 +134,11 @@ func TestDrawnMorals(t *testing.T) {
 
 // TestGreatestMorals: all points on all that come ahead, and a chain.
 func TestGreatestMorals(t *testing.T) {
-	all, chain := make([][]int, api.MaxVars), make([][]int, api.MaxVars)
-	for point := range api.MaxVars - 1 {
-		all[point+1] = numbers(point + 1)
-		chain[point] = []int{point + 1}
-	}
-	g, e := graph.Moral(all)
+	g, e := graph.Moral(samples.FullParents(api.MaxVars))
 	if e != api.OK || len(told(g)) != api.MaxVars*(api.MaxVars-1)/2 {
 		t.Errorf("all on all ahead: %v", e)
 	}
+	chain := samples.RowOfParents(api.MaxVars)
 	g, e = graph.Moral(chain)
 	if e != api.OK || !slices.Equal(told(g), asMoral(chain).edges()) {
 		t.Errorf("a chain: %v", e)

@@ -67,3 +67,21 @@ func DrawnParents(source Source, count, many int, back bool) [][]int {
 	}
 	return parents
 }
+
+// RowOfParents are points each of which hangs on the next one, but for the last.
+func RowOfParents(count int) [][]int {
+	parents := make([][]int, count)
+	for point := range count - 1 {
+		parents[point] = []int{point + 1}
+	}
+	return parents
+}
+
+// FullParents are points each of which hangs on all that come ahead of it.
+func FullParents(count int) [][]int {
+	parents := make([][]int, count)
+	for point := range parents {
+		parents[point] = Numbers(point)
+	}
+	return parents
+}

@@ -58,3 +58,17 @@ func TestDrawnParents(t *testing.T) {
 		}
 	}
 }
+
+// TestManyParents: rows, and all on all that come ahead.
+func TestManyParents(t *testing.T) {
+	for count, want := range []string{"", "", "1 |", "1 | 2 |", "1 | 2 | 3 |"} {
+		if got := samples.RowOfParents(count); len(got) != count || count > 0 && !samples.SameLists(got, samples.Hung(want)) {
+			t.Errorf("RowOfParents(%d): %v", count, got)
+		}
+	}
+	for count, want := range []string{"", "", "| 0", "| 0 | 0 1", "| 0 | 0 1 | 0 1 2"} {
+		if got := samples.FullParents(count); len(got) != count || count > 0 && !samples.SameLists(got, samples.Hung(want)) {
+			t.Errorf("FullParents(%d): %v", count, got)
+		}
+	}
+}
