@@ -18,6 +18,7 @@ var (
 	chain   = samples.RowOfParents
 	numbers = samples.Numbers
 	alike   = samples.SameLists
+	hangs   = samples.Hangs
 )
 
 // p are the chapter's points.
@@ -92,11 +93,6 @@ func inOrder(parents [][]int) []int {
 		}
 	}
 	return out
-}
-
-// hangs is whether a point is another one or hangs on it, by way of others too.
-func hangs(parents [][]int, point, on int) bool {
-	return point == on || slices.ContainsFunc(parents[point], func(parent int) bool { return hangs(parents, parent, on) })
 }
 
 // chosen are the points, rising, of which a question says yes at one of some.

@@ -30,6 +30,31 @@ func Numbers(count int) []int {
 	return out
 }
 
+// Choices are all choices among the numbers from 0 on, so many; each one rises.
+func Choices(count int) [][]int {
+	out := [][]int{nil}
+	for number := range count {
+		for _, list := range out {
+			out = append(out, append(slices.Clip(list), number))
+		}
+	}
+	return out
+}
+
+// DrawnNumbers are some of the numbers from 0 on, without any order: about so
+// many of a hundred; some of them come twice.
+func DrawnNumbers(source Source, count, percent int) []int {
+	var out []int
+	for _, number := range source.Perm(count) {
+		for range 2 {
+			if source.Intn(200) < percent {
+				out = append(out, number)
+			}
+		}
+	}
+	return out
+}
+
 // SameLists is whether two lists of lists have the same numbers.
 func SameLists(a, b [][]int) bool { return slices.EqualFunc(a, b, slices.Equal) }
 

@@ -1,6 +1,7 @@
 package samples_test
 
 import (
+	"math/rand"
 	"slices"
 	"testing"
 
@@ -24,6 +25,41 @@ func TestList(t *testing.T) {
 func TestNumbers(t *testing.T) {
 	if got := samples.Numbers(4); !slices.Equal(got, []int{0, 1, 2, 3}) || len(samples.Numbers(0)) != 0 {
 		t.Errorf("Numbers: %v", got)
+	}
+}
+
+// TestChoices: each choice once.
+func TestChoices(t *testing.T) {
+	want := [][]int{nil, {0}, {1}, {0, 1}, {2}, {0, 2}, {1, 2}, {0, 1, 2}}
+	for count := range 4 {
+		if got := samples.Choices(count); !samples.SameLists(got, want[:1<<count]) {
+			t.Errorf("Choices(%d): %v", count, got)
+		}
+	}
+}
+
+// TestDrawnNumbers: of the numbers that there are, about as many as were asked
+// for, none more than twice.
+func TestDrawnNumbers(t *testing.T) {
+	source := rand.New(rand.NewSource(2))
+	for _, percent := range []int{0, 30, 100} {
+		all := 0
+		for range 100 {
+			times := make([]int, 20)
+			for _, number := range samples.DrawnNumbers(source, 20, percent) {
+				times[number]++
+				all++
+			}
+			if slices.Max(times) > 2 {
+				t.Fatalf("of 20, %d of a hundred: %v times", percent, times)
+			}
+		}
+		if low, high := 2000*percent/100-200, 2000*percent/100+200; all < low || all > high || percent == 0 && all > 0 {
+			t.Errorf("%d of a hundred of 2000: %d", percent, all)
+		}
+	}
+	if len(samples.DrawnNumbers(source, 0, 50)) > 0 {
+		t.Error("of none there are some")
 	}
 }
 

@@ -46,6 +46,38 @@ func unfolded(count, bits int) [][]int {
 	return parents
 }
 
+// SmallDags goes over those of SmallParents in which nothing leads back.
+func SmallDags(most int) iter.Seq[[][]int] {
+	return func(yield func([][]int) bool) {
+		for parents := range SmallParents(most) {
+			if !leadsBack(parents) && !yield(parents) {
+				return
+			}
+		}
+	}
+}
+
+// leadsBack is whether some points can't be taken out one by one, each behind
+// its parents.
+func leadsBack(parents [][]int) bool {
+	var out []int
+	for range parents {
+		for point, list := range parents {
+			stays := slices.ContainsFunc(list, func(parent int) bool { return !slices.Contains(out, parent) })
+			if !stays && !slices.Contains(out, point) {
+				out = append(out, point)
+			}
+		}
+	}
+	return len(out) < len(parents)
+}
+
+// Hangs is whether a point is another one or hangs on it, by way of others too.
+// Nothing may lead back. It takes its time, so that few points are judged by it.
+func Hangs(parents [][]int, point, on int) bool {
+	return point == on || slices.ContainsFunc(parents[point], func(parent int) bool { return Hangs(parents, parent, on) })
+}
+
 // Source is where numbers without any order come from: a test's *rand.Rand.
 type Source interface {
 	Intn(n int) int

@@ -39,6 +39,40 @@ func TestSmallParents(t *testing.T) {
 	}
 }
 
+// TestSmallDags: those that may be, of all sizes, as many as there are; it may
+// be stopped.
+func TestSmallDags(t *testing.T) {
+	counts := make([]int, 5)
+	for parents := range samples.SmallDags(4) {
+		counts[len(parents)]++
+		for point, list := range parents {
+			for _, parent := range list {
+				if samples.Hangs(parents, parent, point) {
+					t.Fatalf("%v: %d hangs on itself", parents, point)
+				}
+			}
+		}
+	}
+	if !slices.Equal(counts, []int{1, 1, 3, 25, 543}) {
+		t.Errorf("%v of each size", counts)
+	}
+	for range samples.SmallDags(30) {
+		break
+	}
+}
+
+// TestHangs: on itself, on parents, on theirs; not on children, nor on others.
+func TestHangs(t *testing.T) {
+	parents := samples.Hung("| 0 | 3 1 | |")
+	for point, want := range []string{"0", "0 1", "0 1 2 3", "3", "4"} {
+		for on := range parents {
+			if got := samples.Hangs(parents, point, on); got != slices.Contains(samples.List(want), on) {
+				t.Errorf("%d on %d: %v", point, on, got)
+			}
+		}
+	}
+}
+
 // TestDrawnParents: where nothing may lead back, nothing does: the points can be
 // taken out one by one.
 func TestDrawnParents(t *testing.T) {

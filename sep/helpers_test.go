@@ -1,13 +1,10 @@
 package sep_test
 
 import (
-	"iter"
-	"math/rand"
 	"slices"
 	"testing"
 
 	"credence/api"
-	"credence/dag"
 	"credence/samples"
 	"credence/sep"
 )
@@ -18,6 +15,10 @@ var (
 	hung    = samples.Hung
 	drawn   = samples.DrawnParents
 	numbers = samples.Numbers
+	small   = samples.SmallDags
+	hangs   = samples.Hangs
+	some    = samples.DrawnNumbers
+	choices = samples.Choices
 )
 
 // p are the chapter's points.
@@ -25,11 +26,6 @@ func p() [][]int { return hung("| 0 | 0 | 1 2 | 3") }
 
 // The judges: what should be told, by the words of the chapter and nothing
 // better. They take their time, so that few points are judged.
-
-// hangs is whether a point is another one or hangs on it, by way of others too.
-func hangs(parents [][]int, point, on int) bool {
-	return point == on || slices.ContainsFunc(parents[point], func(parent int) bool { return hangs(parents, parent, on) })
-}
 
 // beside is whether one of two points is a parent of the other.
 func beside(parents [][]int, a, b int) bool {
@@ -158,40 +154,4 @@ func checkBlankets(t *testing.T, parents [][]int) {
 			t.Fatalf("Blanket(%v, %d): %v, %v, want %v", parents, a, got, e, nearest(parents, a))
 		}
 	}
-}
-
-// small goes over all parents that may be of up to most points.
-func small(most int) iter.Seq[[][]int] {
-	return func(yield func([][]int) bool) {
-		for parents := range samples.SmallParents(most) {
-			if dag.Check(parents) == api.OK && !yield(parents) {
-				return
-			}
-		}
-	}
-}
-
-// subsets are all choices among the points.
-func subsets(parents [][]int) [][]int {
-	out := [][]int{nil}
-	for point := range parents {
-		for _, l := range out {
-			out = append(out, append(slices.Clip(l), point))
-		}
-	}
-	return out
-}
-
-// some are points without any order, about so many of a hundred; some of them
-// come twice.
-func some(source *rand.Rand, count, percent int) []int {
-	var out []int
-	for _, point := range source.Perm(count) {
-		for range 2 {
-			if source.Intn(200) < percent {
-				out = append(out, point)
-			}
-		}
-	}
-	return out
 }

@@ -116,9 +116,9 @@ func TestSmallLaws(t *testing.T) {
 // b too, or given.
 func TestBothSides(t *testing.T) {
 	for parents := range small(3) {
-		for _, a := range subsets(parents) {
-			for _, b := range subsets(parents) {
-				for _, given := range subsets(parents) {
+		for _, a := range choices(len(parents)) {
+			for _, b := range choices(len(parents)) {
+				for _, given := range choices(len(parents)) {
 					checkEither(t, parents, a, b, given)
 				}
 			}

@@ -98,7 +98,7 @@ func TestApart(t *testing.T) {
 func TestSmallLists(t *testing.T) {
 	for parents := range small(3) {
 		for a := range samples.ListsOf(numbers(len(parents)), 3) {
-			for _, b := range subsets(parents) {
+			for _, b := range choices(len(parents)) {
 				for given := range samples.ListsOf(numbers(len(parents)), 2) {
 					checkLists(t, parents, a, b, given)
 				}

@@ -62,7 +62,7 @@ func TestTrail(t *testing.T) {
 // TestSmall: all parents of up to four points, all that can be given.
 func TestSmall(t *testing.T) {
 	for parents := range small(4) {
-		for _, given := range subsets(parents) {
+		for _, given := range choices(len(parents)) {
 			checkEach(t, parents, given)
 		}
 	}
