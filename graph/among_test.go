@@ -27,9 +27,9 @@ func TestExamplesOfAmong(t *testing.T) {
 // them that are no points, or stand there twice.
 func TestSmallAmong(t *testing.T) {
 	for p := range small(4) {
-		g := p.graph(t)
+		g := graphOf(t, p)
 		for points := range samples.ListsOf([]int{-1, 0, 1, 2, 3, 4}, 3) {
-			checkSame(t, g.Among(points), p.among(points))
+			checkSame(t, g.Among(points), among(p, points))
 		}
 		checkSame(t, g.Among(list("3 2 1 0")), p)
 		checkSame(t, g, p)
@@ -39,10 +39,10 @@ func TestSmallAmong(t *testing.T) {
 // TestStrangersAmong: what is no point says nothing.
 func TestStrangersAmong(t *testing.T) {
 	p := unfolded(5, 1023)
-	g := p.graph(t)
+	g := graphOf(t, p)
 	for _, a := range strangers(5) {
 		checkSame(t, g.Among([]int{a}), bare(5))
-		checkSame(t, g.Among([]int{a, 4, a, 0, a}), p.among(list("0 4")))
+		checkSame(t, g.Among([]int{a, 4, a, 0, a}), among(p, list("0 4")))
 	}
 	checkSame(t, made(t, 0, nil).Among(strangers(0)), bare(0))
 	for _, none := range [][]int{nil, {}} {
@@ -59,7 +59,7 @@ func TestDrawnAmong(t *testing.T) {
 		for j := range points {
 			points[j] = source.Intn(len(p)+4) - 2
 		}
-		checkSame(t, p.graph(t).Among(points), p.among(points))
+		checkSame(t, graphOf(t, p).Among(points), among(p, points))
 	}
 }
 
@@ -72,14 +72,14 @@ func TestShareNothing(t *testing.T) {
 			continue
 		}
 		p := unfolded(6, bits)
-		g := p.graph(t)
+		g := graphOf(t, p)
 		h := g.Among(all)
 		g.Remove(bits % 6)
 		checkSame(t, h, p)
 		h.Join(0, 5)
 		h.Remove(1)
-		q := p.clone()
-		q.remove(bits % 6)
+		q := p.Clone()
+		q.Remove(bits % 6)
 		checkSame(t, g, q)
 	}
 }

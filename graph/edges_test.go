@@ -83,11 +83,11 @@ func TestMeanwhile(t *testing.T) {
 	}
 	p := bare(5)
 	for _, edge := range got {
-		p.set(edge.From, edge.To, true)
+		p.Set(edge.From, edge.To, true)
 	}
 	for _, edge := range got {
-		p.remove(edge.From)
-		p.set(edge.To, 4, true)
+		p.Remove(edge.From)
+		p.Set(edge.To, 4, true)
 	}
 	checkSame(t, g, p)
 }

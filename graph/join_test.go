@@ -69,7 +69,7 @@ func TestJoin(t *testing.T) {
 				t.Errorf("%d and %d were joined twice", a, b)
 			}
 			p := bare(4)
-			p.set(a, b, a != b)
+			p.Set(a, b, a != b)
 			checkSame(t, g, p)
 		}
 	}
@@ -78,7 +78,7 @@ func TestJoin(t *testing.T) {
 // TestJoinStrangers: what is no point has no edges, and nothing is changed.
 func TestJoinStrangers(t *testing.T) {
 	for _, p := range []plain{bare(0), bare(1), unfolded(3, 5), unfolded(5, 1023), bare(64)} {
-		g := p.graph(t)
+		g := graphOf(t, p)
 		for _, a := range strangers(len(p)) {
 			if g.Join(a, a) || g.Has(a, a) || len(g.Near(a)) > 0 || g.Fill(a) != 0 {
 				t.Errorf("%d points: %d is one", len(p), a)
@@ -101,7 +101,7 @@ func TestJoinStrangers(t *testing.T) {
 // TestSmallGraphs: all graphs of up to five points.
 func TestSmallGraphs(t *testing.T) {
 	for p := range small(5) {
-		checkSame(t, p.graph(t), p)
+		checkSame(t, graphOf(t, p), p)
 	}
 }
 
@@ -114,9 +114,9 @@ func TestDrawnGraphs(t *testing.T) {
 		for range len(p) * (1 + i%8) {
 			a, b := source.Intn(len(p)), source.Intn(len(p))
 			if got := g.Join(a, b); got != (a != b && !p[a][b]) {
-				t.Fatalf("%v: Join(%d, %d): %v", p.edges(), a, b, got)
+				t.Fatalf("%v: Join(%d, %d): %v", p.Edges(), a, b, got)
 			}
-			p.set(a, b, a != b)
+			p.Set(a, b, a != b)
 		}
 		checkSame(t, g, p)
 	}
@@ -129,10 +129,10 @@ func TestGreatest(t *testing.T) {
 	some := list("0 1 7 8 31 32 62 63 64 65 127 128 255 256 511 512 960 1022 1023")
 	for i, a := range some {
 		for _, b := range some[:i] {
-			p.set(a, b, (a+b)%3 > 0)
+			p.Set(a, b, (a+b)%3 > 0)
 		}
 	}
-	checkSame(t, p.graph(t), p)
+	checkSame(t, graphOf(t, p), p)
 	g := made(t, api.MaxVars, nil)
 	for a := range api.MaxVars {
 		for b := range a {

@@ -16,7 +16,7 @@ import (
 // it. It tells how many edges were put in.
 func checkTaken(t *testing.T, p plain, order []int) int {
 	t.Helper()
-	g := p.graph(t)
+	g := graphOf(t, p)
 	filled := g.Among(numbers(len(p)))
 	var cliques [][]int
 	count := 0
@@ -25,16 +25,16 @@ func checkTaken(t *testing.T, p plain, order []int) int {
 		cliques = append(cliques, clique)
 		for _, edge := range put {
 			if !filled.Join(edge.From, edge.To) {
-				t.Fatalf("%v in the order %v: %v was put in twice", p.edges(), order, edge)
+				t.Fatalf("%v in the order %v: %v was put in twice", p.Edges(), order, edge)
 			}
 		}
 		count += len(put)
 	}
 	if !filled.Chordal() {
-		t.Fatalf("%v in the order %v: %v is not chordal", p.edges(), order, told(filled))
+		t.Fatalf("%v in the order %v: %v is not chordal", p.Edges(), order, told(filled))
 	}
 	if len(told(g)) > 0 {
-		t.Fatalf("%v in the order %v: %v are left", p.edges(), order, told(g))
+		t.Fatalf("%v in the order %v: %v are left", p.Edges(), order, told(g))
 	}
 	for _, clique := range cliques {
 		checkClique(t, filled, clique)
@@ -54,20 +54,6 @@ func checkClique(t *testing.T, g *graph.Graph, clique []int) {
 	}
 }
 
-// orders are all orders of some points.
-func orders(points []int) [][]int {
-	if len(points) == 0 {
-		return [][]int{nil}
-	}
-	var out [][]int
-	for i, a := range points {
-		for _, rest := range orders(slices.Delete(slices.Clone(points), i, i+1)) {
-			out = append(out, append([]int{a}, rest...))
-		}
-	}
-	return out
-}
-
 // TestAllOrders: all graphs of up to five points, in all orders: a graph is
 // chordal just if one of these puts nothing in.
 func TestAllOrders(t *testing.T) {
@@ -78,8 +64,8 @@ func TestAllOrders(t *testing.T) {
 				fewest = count
 			}
 		}
-		if got := p.graph(t).Chordal(); got != (fewest == 0) {
-			t.Fatalf("%d points, %v: Chordal: %v, but at least %d edges are put in", len(p), p.edges(), got, fewest)
+		if got := graphOf(t, p).Chordal(); got != (fewest == 0) {
+			t.Fatalf("%d points, %v: Chordal: %v, but at least %d edges are put in", len(p), p.Edges(), got, fewest)
 		}
 	}
 }
@@ -105,9 +91,9 @@ func TestDrawnOrders(t *testing.T) {
 	for i := range 300 {
 		p := drawn(source, 1+source.Intn(70), 1+i%30)
 		checkTaken(t, p, source.Perm(len(p)))
-		g := p.graph(t)
+		g := graphOf(t, p)
 		if chordal := g.Chordal(); chordal != takenFreely(g) {
-			t.Fatalf("%v: Chordal: %v", p.edges(), chordal)
+			t.Fatalf("%v: Chordal: %v", p.Edges(), chordal)
 		}
 	}
 }
@@ -119,25 +105,25 @@ func TestFilled(t *testing.T) {
 	chordal, others := 0, 0
 	for range 300 {
 		p := drawn(source, 5+source.Intn(40), 12)
-		q := p.clone()
+		q := p.Clone()
 		for _, a := range source.Perm(len(p)) {
-			for _, edge := range q.wanting(a) {
-				p.set(edge.From, edge.To, true)
+			for _, edge := range q.Wanting(a) {
+				p.Set(edge.From, edge.To, true)
 			}
-			q.remove(a)
+			q.Remove(a)
 		}
-		if all := p.edges(); len(all) > 0 {
+		if all := p.Edges(); len(all) > 0 {
 			edge := all[source.Intn(len(all))]
-			p.set(edge.From, edge.To, false)
+			p.Set(edge.From, edge.To, false)
 		}
-		g := p.graph(t)
+		g := graphOf(t, p)
 		if g.Chordal() {
 			chordal++
 		} else {
 			others++
 		}
 		if got := g.Chordal(); got != takenFreely(g) {
-			t.Fatalf("%v: Chordal: %v", p.edges(), got)
+			t.Fatalf("%v: Chordal: %v", p.Edges(), got)
 		}
 	}
 	if chordal < 20 || others < 20 {
@@ -151,7 +137,7 @@ func TestGreatestOrders(t *testing.T) {
 	p := bare(api.MaxVars)
 	for range api.MaxVars + 100 {
 		a, b := source.Intn(len(p)), source.Intn(len(p))
-		p.set(a, b, a != b)
+		p.Set(a, b, a != b)
 	}
 	checkTaken(t, p, source.Perm(len(p)))
 }

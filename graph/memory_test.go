@@ -132,13 +132,13 @@ func TestTwoGraphs(t *testing.T) {
 	checkSame(t, two, bare(3))
 	third, fourth := second.Among(list("0 1 2")), second.Among(list("0 1 2"))
 	third.Remove(1)
-	checkSame(t, fourth, asMoral(parents).among(list("0 1 2")))
+	checkSame(t, fourth, among(asMoral(parents), list("0 1 2")))
 }
 
 // TestNothingIsChanged: what only tells something changes nothing.
 func TestNothingIsChanged(t *testing.T) {
 	for p := range small(4) {
-		g := p.graph(t)
+		g := graphOf(t, p)
 		for a := -1; a <= len(p); a++ {
 			g.Fill(a)
 			g.Near(a)
@@ -147,7 +147,7 @@ func TestNothingIsChanged(t *testing.T) {
 		}
 		first, second := g.Chordal(), g.Chordal()
 		if first != second {
-			t.Fatalf("%v: Chordal: %v, then %v", p.edges(), first, second)
+			t.Fatalf("%v: Chordal: %v, then %v", p.Edges(), first, second)
 		}
 		g.Pieces()
 		g.Edges()

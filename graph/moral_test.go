@@ -18,9 +18,9 @@ func asMoral(parents [][]int) plain {
 	p := bare(len(parents))
 	for point, l := range parents {
 		for i, a := range l {
-			p.set(point, a, true)
+			p.Set(point, a, true)
 			for _, b := range l[:i] {
-				p.set(a, b, true)
+				p.Set(a, b, true)
 			}
 		}
 	}
@@ -140,7 +140,7 @@ func TestGreatestMorals(t *testing.T) {
 	}
 	chain := samples.RowOfParents(api.MaxVars)
 	g, e = graph.Moral(chain)
-	if e != api.OK || !slices.Equal(told(g), asMoral(chain).edges()) {
+	if e != api.OK || !slices.Equal(told(g), asMoral(chain).Edges()) {
 		t.Errorf("a chain: %v", e)
 	}
 }

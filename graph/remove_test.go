@@ -16,11 +16,11 @@ import (
 // is told and what is left against each other.
 func checkRemove(t *testing.T, g *graph.Graph, p plain, a int) {
 	t.Helper()
-	before := p.edges()
-	clique := append(p.near(a), a)
+	before := p.Edges()
+	clique := append(p.Near(a), a)
 	slices.Sort(clique)
-	want := p.wanting(a)
-	p.remove(a)
+	want := p.Wanting(a)
+	p.Remove(a)
 	got, put := g.Remove(a)
 	if !slices.Equal(got, clique) || !slices.Equal(put, want) {
 		t.Fatalf("%v: Remove(%d): %v, %v, want %v, %v", before, a, got, put, clique, want)
@@ -63,7 +63,7 @@ func TestFill(t *testing.T) {
 // TestRemoveStrangers: nothing is done.
 func TestRemoveStrangers(t *testing.T) {
 	for _, p := range []plain{bare(0), bare(1), unfolded(4, 41), unfolded(5, 1023), unfolded(6, 21845)} {
-		g := p.graph(t)
+		g := graphOf(t, p)
 		for _, a := range strangers(len(p)) {
 			if clique, put := g.Remove(a); len(clique)+len(put) > 0 || g.Fill(a) != 0 {
 				t.Errorf("%d points: Remove(%d): %v, %v", len(p), a, clique, put)
@@ -78,14 +78,14 @@ func TestRemoveStrangers(t *testing.T) {
 func TestSmallRemove(t *testing.T) {
 	for p := range small(5) {
 		for a := range p {
-			q := p.clone()
-			g := q.graph(t)
+			q := p.Clone()
+			g := graphOf(t, q)
 			checkRemove(t, g, q, a)
 			checkRemove(t, g, q, a)
 			if b := (a + 1) % len(p); b != a {
-				q.set(a, b, true)
+				q.Set(a, b, true)
 				if !g.Join(a, b) {
-					t.Fatalf("%v: %d was taken out, and can't be joined", p.edges(), a)
+					t.Fatalf("%v: %d was taken out, and can't be joined", p.Edges(), a)
 				}
 				checkRemove(t, g, q, b)
 			}
@@ -99,13 +99,13 @@ func TestDrawnRemove(t *testing.T) {
 	source := rand.New(rand.NewSource(155))
 	for i := range 80 {
 		p := drawn(source, 1+source.Intn(70), 1+i%40)
-		g := p.graph(t)
+		g := graphOf(t, p)
 		for range min(len(p), 10) {
 			checkRemove(t, g, p, source.Intn(len(p)))
 			a, b := source.Intn(len(p)), source.Intn(len(p))
 			if a != b {
 				g.Join(a, b)
-				p.set(a, b, true)
+				p.Set(a, b, true)
 			}
 		}
 	}

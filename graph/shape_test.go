@@ -41,9 +41,9 @@ func TestChordal(t *testing.T) {
 // checkChordal holds Chordal against the judge.
 func checkChordal(t *testing.T, p plain) bool {
 	t.Helper()
-	want := p.chordal()
-	if got := p.graph(t).Chordal(); got != want {
-		t.Fatalf("%d points, %v: %v", len(p), p.edges(), got)
+	want := isChordal(p)
+	if got := graphOf(t, p).Chordal(); got != want {
+		t.Fatalf("%d points, %v: %v", len(p), p.Edges(), got)
 	}
 	return want
 }
@@ -68,7 +68,7 @@ func TestDrawnChordal(t *testing.T) {
 			} else {
 				others++
 			}
-			p.remove(source.Intn(len(p)))
+			p.Remove(source.Intn(len(p)))
 		}
 	}
 	if chordal < 500 || others < 500 {
@@ -111,16 +111,16 @@ func TestOneRing(t *testing.T) {
 		p := bare(100)
 		for a := range p {
 			for b := range a {
-				p.set(a, b, true)
+				p.Set(a, b, true)
 			}
 		}
 		names := source.Perm(len(p))
-		p.set(names[0], names[2], false)
-		if !p.graph(t).Chordal() {
+		p.Set(names[0], names[2], false)
+		if !graphOf(t, p).Chordal() {
 			t.Errorf("%v without one edge: not chordal", names[:4])
 		}
-		p.set(names[1], names[3], false)
-		if p.graph(t).Chordal() {
+		p.Set(names[1], names[3], false)
+		if graphOf(t, p).Chordal() {
 			t.Errorf("%v without short cuts: chordal", names[:4])
 		}
 	}
@@ -148,10 +148,10 @@ func TestDrawnPieces(t *testing.T) {
 		p := bare(150)
 		for range 20 + 4*i {
 			a, b := source.Intn(len(p)), source.Intn(len(p))
-			p.set(a, b, a != b)
+			p.Set(a, b, a != b)
 		}
-		if got := p.graph(t).Pieces(); !alike(got, p.pieces()) {
-			t.Fatalf("%v: %v", p.edges(), got)
+		if got := graphOf(t, p).Pieces(); !alike(got, piecesOf(p)) {
+			t.Fatalf("%v: %v", p.Edges(), got)
 		}
 	}
 }

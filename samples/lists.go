@@ -41,6 +41,20 @@ func Choices(count int) [][]int {
 	return out
 }
 
+// Orders are all orders of some numbers.
+func Orders(list []int) [][]int {
+	if len(list) == 0 {
+		return [][]int{nil}
+	}
+	var out [][]int
+	for i, first := range list {
+		for _, rest := range Orders(slices.Delete(slices.Clone(list), i, i+1)) {
+			out = append(out, append([]int{first}, rest...))
+		}
+	}
+	return out
+}
+
 // DrawnNumbers are some of the numbers from 0 on, without any order: about so
 // many of a hundred; some of them come twice.
 func DrawnNumbers(source Source, count, percent int) []int {

@@ -38,6 +38,21 @@ func TestChoices(t *testing.T) {
 	}
 }
 
+// TestOrders: each order once.
+func TestOrders(t *testing.T) {
+	want := [][]int{{5, 0, 7}, {5, 7, 0}, {0, 5, 7}, {0, 7, 5}, {7, 5, 0}, {7, 0, 5}}
+	list := []int{5, 0, 7}
+	if got := samples.Orders(list); !samples.SameLists(got, want) || !slices.Equal(list, []int{5, 0, 7}) {
+		t.Errorf("Orders of three: %v", got)
+	}
+	if got := samples.Orders(nil); !samples.SameLists(got, [][]int{nil}) {
+		t.Errorf("Orders of none: %v", got)
+	}
+	if got := samples.Orders(samples.Numbers(6)); len(got) != 720 {
+		t.Errorf("six have %d orders", len(got))
+	}
+}
+
 // TestDrawnNumbers: of the numbers that there are, about as many as were asked
 // for, none more than twice.
 func TestDrawnNumbers(t *testing.T) {
